@@ -1,6 +1,7 @@
 package tests
 
 import (
+	"fmt"
 	"reflect"
 	"slices"
 	"strings"
@@ -131,6 +132,18 @@ func treeTexts(n int) []string {
 	return list
 }
 
+// orderedTrees returns all trees of n nodes, at most 10, in the order of their degrees.
+func orderedTrees(n int) []impl.Tree {
+	var list []impl.Tree
+	for _, text := range treeTexts(n) {
+		list = append(list, modelOf(text).tree())
+	}
+	slices.SortFunc(list, func(x, y impl.Tree) int {
+		return strings.Compare(fmt.Sprint(x.Degrees), fmt.Sprint(y.Degrees))
+	})
+	return list
+}
+
 func pathText(n int) string { return strings.Repeat("(", n) + strings.Repeat(")", n) }
 
 func starText(n int) string { return "(" + strings.Repeat("()", n-1) + ")" }
@@ -175,6 +188,8 @@ func isZero(x any) bool {
 		return len(y) == 0
 	case impl.Tree:
 		return len(y.Degrees) == 0
+	case []impl.Tree:
+		return len(y) == 0
 	}
 	return reflect.ValueOf(x).IsZero()
 }

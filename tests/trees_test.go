@@ -46,6 +46,9 @@ var ofTree = map[string]func(t impl.Tree) (any, int64){
 	"NodeAt":       func(t impl.Tree) (any, int64) { return pair(impl.NodeAt(t, nil)) },
 	"JoinTrees":    func(t impl.Tree) (any, int64) { return pair(impl.JoinTrees([]impl.Tree{t})) },
 	"CompareTrees": func(t impl.Tree) (any, int64) { return pair(impl.CompareTrees(t, t)) },
+	"NextTree":     func(t impl.Tree) (any, int64) { return pair(impl.NextTree(t)) },
+	"RankOfTree":   func(t impl.Tree) (any, int64) { return pair(impl.RankOfTree(t)) },
+	"CountsOfTree": func(t impl.Tree) (any, int64) { return pair(impl.CountsOfTree(t)) },
 }
 
 // ofNode has each function of a tree and a node.
@@ -303,12 +306,7 @@ func TestRemoveAt(t *testing.T) {
 func TestCompareTrees(t *testing.T) {
 	var all []impl.Tree
 	for n := 1; n <= 6; n++ {
-		var some []impl.Tree
-		for _, text := range treeTexts(n) {
-			some = append(some, parsed(text))
-		}
-		slices.SortFunc(some, func(x, y impl.Tree) int { return strings.Compare(fmt.Sprint(x.Degrees), fmt.Sprint(y.Degrees)) })
-		all = append(all, some...)
+		all = append(all, orderedTrees(n)...)
 	}
 	for i, x := range all {
 		for j, y := range all {
