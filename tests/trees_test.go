@@ -49,6 +49,7 @@ var ofTree = map[string]func(t impl.Tree) (any, int64){
 	"NextTree":     func(t impl.Tree) (any, int64) { return pair(impl.NextTree(t)) },
 	"RankOfTree":   func(t impl.Tree) (any, int64) { return pair(impl.RankOfTree(t)) },
 	"CountsOfTree": func(t impl.Tree) (any, int64) { return pair(impl.CountsOfTree(t)) },
+	"BinaryOf":     func(t impl.Tree) (any, int64) { return pair(impl.BinaryOf(t)) },
 }
 
 // ofNode has each function of a tree and a node.
