@@ -89,6 +89,10 @@ func spoil(x any) {
 		list = y
 	case impl.Tree:
 		list = y.Degrees
+	case []impl.Tree:
+		for _, tree := range y {
+			spoil(tree)
+		}
 	}
 	list = list[:cap(list)]
 	for i := range list {

@@ -50,6 +50,10 @@ var ofTree = map[string]func(t impl.Tree) (any, int64){
 	"RankOfTree":   func(t impl.Tree) (any, int64) { return pair(impl.RankOfTree(t)) },
 	"CountsOfTree": func(t impl.Tree) (any, int64) { return pair(impl.CountsOfTree(t)) },
 	"BinaryOf":     func(t impl.Tree) (any, int64) { return pair(impl.BinaryOf(t)) },
+	"MatchedNodes": func(t impl.Tree) (any, int64) { return pair(impl.MatchedNodes(t, "(ab)")) },
+	"FillPattern":  func(t impl.Tree) (any, int64) { return pair(impl.FillPattern("(a(b))", []impl.Tree{t, t})) },
+	"FirstInside":  func(t impl.Tree) (any, int64) { return pair(impl.FirstInside(t, t)) },
+	"CountInside":  func(t impl.Tree) (any, int64) { return pair(impl.CountInside(t, t)) },
 }
 
 // ofNode has each function of a tree and a node.
@@ -63,6 +67,8 @@ var ofNode = map[string]func(t impl.Tree, v int64) (any, int64){
 	"IsBelow, w": func(t impl.Tree, v int64) (any, int64) { return pair(impl.IsBelow(t, 0, v)) },
 	"MeetOf":     func(t impl.Tree, v int64) (any, int64) { return pair(impl.MeetOf(t, v, 0)) },
 	"MeetOf, w":  func(t impl.Tree, v int64) (any, int64) { return pair(impl.MeetOf(t, 0, v)) },
+	"MatchesAt":  func(t impl.Tree, v int64) (any, int64) { return pair(impl.MatchesAt(t, v, "(ab)")) },
+	"OpenTrees":  func(t impl.Tree, v int64) (any, int64) { return pair(impl.OpenTrees(t, v, "(ab)")) },
 }
 
 func pair(x any, code int64) (any, int64) { return x, code }
