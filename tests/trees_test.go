@@ -54,6 +54,17 @@ var ofTree = map[string]func(t impl.Tree) (any, int64){
 	"FillPattern":  func(t impl.Tree) (any, int64) { return pair(impl.FillPattern("(a(b))", []impl.Tree{t, t})) },
 	"FirstInside":  func(t impl.Tree) (any, int64) { return pair(impl.FirstInside(t, t)) },
 	"CountInside":  func(t impl.Tree) (any, int64) { return pair(impl.CountInside(t, t)) },
+
+	"ContourOf":      func(t impl.Tree) (any, int64) { return pair(impl.ContourOf(t)) },
+	"WidthsOf":       func(t impl.Tree) (any, int64) { return pair(impl.WidthsOf(t)) },
+	"ReachesOf":      func(t impl.Tree) (any, int64) { return pair(impl.ReachesOf(t)) },
+	"LongestWay":     func(t impl.Tree) (any, int64) { return pair(impl.LongestWay(t)) },
+	"CentresOf":      func(t impl.Tree) (any, int64) { return pair(impl.CentresOf(t)) },
+	"MiddleNodes":    func(t impl.Tree) (any, int64) { return pair(impl.MiddleNodes(t)) },
+	"SumOfDistances": func(t impl.Tree) (any, int64) { return pair(impl.SumOfDistances(t)) },
+	"LayersOf":       func(t impl.Tree) (any, int64) { return pair(impl.LayersOf(t)) },
+	"LeastShape":     func(t impl.Tree) (any, int64) { return pair(impl.LeastShape(t)) },
+	"HaveSameShape":  func(t impl.Tree) (any, int64) { return pair(impl.HaveSameShape(t, t)) },
 }
 
 // ofNode has each function of a tree and a node.
@@ -69,6 +80,13 @@ var ofNode = map[string]func(t impl.Tree, v int64) (any, int64){
 	"MeetOf, w":  func(t impl.Tree, v int64) (any, int64) { return pair(impl.MeetOf(t, 0, v)) },
 	"MatchesAt":  func(t impl.Tree, v int64) (any, int64) { return pair(impl.MatchesAt(t, v, "(ab)")) },
 	"OpenTrees":  func(t impl.Tree, v int64) (any, int64) { return pair(impl.OpenTrees(t, v, "(ab)")) },
+
+	"WayBetween":      func(t impl.Tree, v int64) (any, int64) { return pair(impl.WayBetween(t, v, 0)) },
+	"WayBetween, w":   func(t impl.Tree, v int64) (any, int64) { return pair(impl.WayBetween(t, 0, v)) },
+	"StepsBetween":    func(t impl.Tree, v int64) (any, int64) { return pair(impl.StepsBetween(t, v, 0)) },
+	"StepsBetween, w": func(t impl.Tree, v int64) (any, int64) { return pair(impl.StepsBetween(t, 0, v)) },
+	"AroundOf":        func(t impl.Tree, v int64) (any, int64) { return pair(impl.AroundOf(t, v)) },
+	"FromCorner":      func(t impl.Tree, v int64) (any, int64) { return pair(impl.FromCorner(t, v, 0)) },
 }
 
 func pair(x any, code int64) (any, int64) { return x, code }
