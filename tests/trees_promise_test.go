@@ -93,6 +93,13 @@ func spoil(x any) {
 		for _, tree := range y {
 			spoil(tree)
 		}
+	case impl.Automaton:
+		spoil(y.Good)
+		steps := y.Steps[:cap(y.Steps)]
+		for i := range steps {
+			spoil(steps[i])
+			steps[i] = []int64{-99}
+		}
 	}
 	list = list[:cap(list)]
 	for i := range list {

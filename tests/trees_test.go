@@ -65,6 +65,9 @@ var ofTree = map[string]func(t impl.Tree) (any, int64){
 	"LayersOf":       func(t impl.Tree) (any, int64) { return pair(impl.LayersOf(t)) },
 	"LeastShape":     func(t impl.Tree) (any, int64) { return pair(impl.LeastShape(t)) },
 	"HaveSameShape":  func(t impl.Tree) (any, int64) { return pair(impl.HaveSameShape(t, t)) },
+
+	"StatesOf":  func(t impl.Tree) (any, int64) { return pair(impl.StatesOf(nodesModulo(3, 0), t)) },
+	"TakesTree": func(t impl.Tree) (any, int64) { return pair(impl.TakesTree(nodesModulo(3, 0), t)) },
 }
 
 // ofNode has each function of a tree and a node.
