@@ -311,8 +311,16 @@ func slicesOf(x any) [][]int64 {
 	switch y := x.(type) {
 	case []int64:
 		return [][]int64{y}
+	case [][]int64:
+		return y
 	case impl.Tree:
 		return [][]int64{y.Degrees}
+	case []impl.Tree:
+		var lists [][]int64
+		for _, tree := range y {
+			lists = append(lists, tree.Degrees)
+		}
+		return lists
 	case impl.Automaton:
 		return append(slices.Clone(y.Steps), y.Good)
 	}

@@ -190,6 +190,8 @@ func isZero(x any) bool {
 		return len(y.Degrees) == 0
 	case []impl.Tree:
 		return len(y) == 0
+	case [][]int64:
+		return len(y) == 0
 	case impl.Automaton:
 		return y.Start == 0 && len(y.Steps) == 0 && len(y.Good) == 0
 	}

@@ -93,6 +93,10 @@ func spoil(x any) {
 		for _, tree := range y {
 			spoil(tree)
 		}
+	case [][]int64:
+		for _, part := range y {
+			spoil(part)
+		}
 	case impl.Automaton:
 		spoil(y.Good)
 		steps := y.Steps[:cap(y.Steps)]
@@ -104,6 +108,25 @@ func spoil(x any) {
 	list = list[:cap(list)]
 	for i := range list {
 		list[i] = -99
+	}
+}
+
+// checkStay checks that calls do not change what is told of the memory of their arguments, that no result
+// shares any of it, or any with another list of the same result, and that calls return the same again.
+func checkStay(t *testing.T, calls map[string]func() (any, int64), memory func() string) {
+	t.Helper()
+	before := memory()
+	for name, call := range calls {
+		first, code := call()
+		told := fmt.Sprint(first)
+		checkOwnMemory(t, name, first)
+		spoil(first)
+		if after := memory(); after != before {
+			t.Fatalf("%s wrote into an argument, or shares memory with one: %s", name, after)
+		}
+		if again, codeAgain := call(); fmt.Sprint(again) != told || codeAgain != code {
+			t.Errorf("%s = %s, %d, and then %v, %d", name, told, code, again, codeAgain)
+		}
 	}
 }
 

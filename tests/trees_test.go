@@ -68,6 +68,16 @@ var ofTree = map[string]func(t impl.Tree) (any, int64){
 
 	"StatesOf":  func(t impl.Tree) (any, int64) { return pair(impl.StatesOf(nodesModulo(3, 0), t)) },
 	"TakesTree": func(t impl.Tree) (any, int64) { return pair(impl.TakesTree(nodesModulo(3, 0), t)) },
+
+	"ByTakingOut":   func(t impl.Tree) (any, int64) { return pair(impl.ByTakingOut(t)) },
+	"ByPuttingIn":   func(t impl.Tree) (any, int64) { return pair(impl.ByPuttingIn(t)) },
+	"EditDistance":  func(t impl.Tree) (any, int64) { return pair(impl.EditDistance(t, t)) },
+	"NodesInCommon": func(t impl.Tree) (any, int64) { return pair(impl.NodesInCommon(t, t)) },
+	"DoAgree":       func(t impl.Tree) (any, int64) { return pair(impl.DoAgree(t, t, [][]int64{{0, 0}})) },
+	"CommonPairs":   func(t impl.Tree) (any, int64) { return pair(impl.CommonPairs(t, t)) },
+	"CanTakeOut":    func(t impl.Tree) (any, int64) { return pair(impl.CanTakeOut(t, t)) },
+	"LeafDistance":  func(t impl.Tree) (any, int64) { return pair(impl.LeafDistance(t, t)) },
+	"EditWay":       func(t impl.Tree) (any, int64) { return pair(impl.EditWay(t, t)) },
 }
 
 // ofNode has each function of a tree and a node.
@@ -90,6 +100,9 @@ var ofNode = map[string]func(t impl.Tree, v int64) (any, int64){
 	"StepsBetween, w": func(t impl.Tree, v int64) (any, int64) { return pair(impl.StepsBetween(t, 0, v)) },
 	"AroundOf":        func(t impl.Tree, v int64) (any, int64) { return pair(impl.AroundOf(t, v)) },
 	"FromCorner":      func(t impl.Tree, v int64) (any, int64) { return pair(impl.FromCorner(t, v, 0)) },
+
+	"TakeOut": func(t impl.Tree, v int64) (any, int64) { return pair(impl.TakeOut(t, v)) },
+	"PutIn":   func(t impl.Tree, v int64) (any, int64) { return pair(impl.PutIn(t, v, 0, 0)) },
 }
 
 func pair(x any, code int64) (any, int64) { return x, code }

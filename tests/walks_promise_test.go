@@ -227,7 +227,6 @@ func TestWalkArgumentsStay(t *testing.T) {
 	contour := []int64{0, 1, 2, 1, 0, 1, 0, -77, -77, -77}
 	depths := []int64{0, 1, 2, 2, 1, -77, -77, -77}
 	memories := [][]int64{xMemory, uMemory, contour, depths}
-	before := fmt.Sprint(memories)
 	calls := map[string]func() (any, int64){
 		"TreeOfContour":      func() (any, int64) { return pair(impl.TreeOfContour(contour[:7])) },
 		"TreeOfContour none": func() (any, int64) { return pair(impl.TreeOfContour(contour[:6])) },
@@ -244,17 +243,7 @@ func TestWalkArgumentsStay(t *testing.T) {
 			return pair(impl.LeastShape(least))
 		},
 	}
-	for name, call := range calls {
-		first, code := call()
-		told := fmt.Sprint(first)
-		spoil(first)
-		if after := fmt.Sprint(memories); after != before {
-			t.Fatalf("%s wrote into an argument, or shares memory with one: %s", name, after)
-		}
-		if again, codeAgain := call(); fmt.Sprint(again) != told || codeAgain != code {
-			t.Errorf("%s = %s, %d, and then %v, %d", name, told, code, again, codeAgain)
-		}
-	}
+	checkStay(t, calls, func() string { return fmt.Sprint(memories) })
 }
 
 // TestLeastShapeOfItselfIsNew checks that the least shape is new memory where it is the argument.
