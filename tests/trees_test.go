@@ -78,6 +78,14 @@ var ofTree = map[string]func(t impl.Tree) (any, int64){
 	"CanTakeOut":    func(t impl.Tree) (any, int64) { return pair(impl.CanTakeOut(t, t)) },
 	"LeafDistance":  func(t impl.Tree) (any, int64) { return pair(impl.LeafDistance(t, t)) },
 	"EditWay":       func(t impl.Tree) (any, int64) { return pair(impl.EditWay(t, t)) },
+
+	"EvenColumns":   func(t impl.Tree) (any, int64) { return pair(impl.EvenColumns(t)) },
+	"TidyColumns":   func(t impl.Tree) (any, int64) { return pair(impl.TidyColumns(t)) },
+	"TidyWidth":     func(t impl.Tree) (any, int64) { return pair(impl.TidyWidth(t)) },
+	"BesideOf":      func(t impl.Tree) (any, int64) { return pair(impl.BesideOf(t)) },
+	"HeavyChildren": func(t impl.Tree) (any, int64) { return pair(impl.HeavyChildren(t)) },
+	"HeavyPaths":    func(t impl.Tree) (any, int64) { return pair(impl.HeavyPaths(t)) },
+	"PictureOf":     func(t impl.Tree) (any, int64) { return pair(impl.PictureOf(t)) },
 }
 
 // ofNode has each function of a tree and a node.
@@ -103,6 +111,10 @@ var ofNode = map[string]func(t impl.Tree, v int64) (any, int64){
 
 	"TakeOut": func(t impl.Tree, v int64) (any, int64) { return pair(impl.TakeOut(t, v)) },
 	"PutIn":   func(t impl.Tree, v int64) (any, int64) { return pair(impl.PutIn(t, v, 0, 0)) },
+
+	"IntervalOf": func(t impl.Tree, v int64) (any, int64) { return ends(impl.IntervalOf(t, v)) },
+	"AncestorOf": func(t impl.Tree, v int64) (any, int64) { return pair(impl.AncestorOf(t, v, 0)) },
+	"LightSteps": func(t impl.Tree, v int64) (any, int64) { return pair(impl.LightSteps(t, v)) },
 }
 
 func pair(x any, code int64) (any, int64) { return x, code }
