@@ -20,6 +20,8 @@ var ofBinary = map[string]func(w string) (any, int64){
 	"InnerOrder":   func(w string) (any, int64) { return pair(impl.InnerOrder(w)) },
 	"VectorOf":     func(w string) (any, int64) { return pair(impl.VectorOf(w)) },
 	"BracketsOf":   func(w string) (any, int64) { return pair(impl.BracketsOf(w)) },
+
+	"ListOfDecreasing": func(w string) (any, int64) { return pair(impl.ListOfDecreasing(w)) },
 }
 
 // ofTurn has each function of a binary tree and a node.

@@ -86,6 +86,11 @@ var ofTree = map[string]func(t impl.Tree) (any, int64){
 	"HeavyChildren": func(t impl.Tree) (any, int64) { return pair(impl.HeavyChildren(t)) },
 	"HeavyPaths":    func(t impl.Tree) (any, int64) { return pair(impl.HeavyPaths(t)) },
 	"PictureOf":     func(t impl.Tree) (any, int64) { return pair(impl.PictureOf(t)) },
+
+	"CountGrowing":  func(t impl.Tree) (any, int64) { return pair(impl.CountGrowing(t)) },
+	"FirstGrowing":  func(t impl.Tree) (any, int64) { return pair(impl.FirstGrowing(t)) },
+	"LastGrowing":   func(t impl.Tree) (any, int64) { return pair(impl.LastGrowing(t)) },
+	"GrowingOfRank": func(t impl.Tree) (any, int64) { return pair(impl.GrowingOfRank(t, 0)) },
 }
 
 // ofNode has each function of a tree and a node.
