@@ -22,6 +22,8 @@ var ofTwoTrees = map[string]func(t, u impl.Tree) (any, int64){
 	"CanTakeOut":            func(t, u impl.Tree) (any, int64) { return pair(impl.CanTakeOut(t, u)) },
 	"LeafDistance":          func(t, u impl.Tree) (any, int64) { return pair(impl.LeafDistance(t, u)) },
 	"EditWay":               func(t, u impl.Tree) (any, int64) { return pair(impl.EditWay(t, u)) },
+	"MeetAgain":             func(t, u impl.Tree) (any, int64) { return pair(impl.MeetAgain(t, u, systemOf("(a)>a"))) },
+	"MeetAgain by no rules": func(t, u impl.Tree) (any, int64) { return pair(impl.MeetAgain(t, u, nil)) },
 }
 
 func wantPairs(t *testing.T, what string, got [][]int64, code int64, want [][]int64) {

@@ -91,6 +91,14 @@ var ofTree = map[string]func(t impl.Tree) (any, int64){
 	"FirstGrowing":  func(t impl.Tree) (any, int64) { return pair(impl.FirstGrowing(t)) },
 	"LastGrowing":   func(t impl.Tree) (any, int64) { return pair(impl.LastGrowing(t)) },
 	"GrowingOfRank": func(t impl.Tree) (any, int64) { return pair(impl.GrowingOfRank(t, 0)) },
+
+	"StepsOf":      func(t impl.Tree) (any, int64) { return pair(impl.StepsOf(t, systemOf("(ab)>(ba)"))) },
+	"FirstStep":    func(t impl.Tree) (any, int64) { return pair(impl.FirstStep(t, systemOf("(ab)>(ba)"))) },
+	"IsNormal":     func(t impl.Tree) (any, int64) { return pair(impl.IsNormal(t, systemOf("(ab)>(ba)"))) },
+	"NormalTree":   func(t impl.Tree) (any, int64) { return counted(impl.NormalTree(t, systemOf("(a)>a"), 30)) },
+	"ReachedTrees": func(t impl.Tree) (any, int64) { return pair(impl.ReachedTrees(t, systemOf("(a)>a"))) },
+	"Loops":        func(t impl.Tree) (any, int64) { return pair(impl.Loops(t, systemOf("(ab)>(ba)"))) },
+	"MeetAgain":    func(t impl.Tree) (any, int64) { return pair(impl.MeetAgain(t, t, systemOf("(ab)>(ba)"))) },
 }
 
 // ofNode has each function of a tree and a node.
@@ -120,6 +128,8 @@ var ofNode = map[string]func(t impl.Tree, v int64) (any, int64){
 	"IntervalOf": func(t impl.Tree, v int64) (any, int64) { return ends(impl.IntervalOf(t, v)) },
 	"AncestorOf": func(t impl.Tree, v int64) (any, int64) { return pair(impl.AncestorOf(t, v, 0)) },
 	"LightSteps": func(t impl.Tree, v int64) (any, int64) { return pair(impl.LightSteps(t, v)) },
+
+	"StepAt": func(t impl.Tree, v int64) (any, int64) { return pair(impl.StepAt(t, v, ruleOf("(ab)>(ba)"))) },
 }
 
 func pair(x any, code int64) (any, int64) { return x, code }
