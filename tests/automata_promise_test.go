@@ -323,6 +323,8 @@ func slicesOf(x any) [][]int64 {
 		return lists
 	case impl.Automaton:
 		return append(slices.Clone(y.Steps), y.Good)
+	case impl.Desk:
+		return [][]int64{y.Tree.Degrees, y.Other.Degrees}
 	}
 	return nil
 }

@@ -194,6 +194,8 @@ func isZero(x any) bool {
 		return len(y) == 0
 	case impl.Automaton:
 		return y.Start == 0 && len(y.Steps) == 0 && len(y.Good) == 0
+	case impl.Desk:
+		return isZero(y.Tree) && isZero(y.Other) && len(y.Rules) == 0
 	}
 	return reflect.ValueOf(x).IsZero()
 }

@@ -104,6 +104,13 @@ func spoil(x any) {
 			spoil(steps[i])
 			steps[i] = []int64{-99}
 		}
+	case impl.Desk:
+		spoil(y.Tree)
+		spoil(y.Other)
+		rules := y.Rules[:cap(y.Rules)]
+		for i := range rules {
+			rules[i] = impl.Rule{Left: "spoilt", Right: "spoilt"}
+		}
 	}
 	list = list[:cap(list)]
 	for i := range list {
